@@ -80,6 +80,8 @@ func TestLengthIsAskedAheadOfOtherWork(t *testing.T) {
 	long := strings.Repeat("x", 1<<24)
 	for name, call := range map[string]func() twine.Errno{
 		"Words":   func() twine.Errno { _, e := twine.Words(long); return e },
+		"Turn":    func() twine.Errno { _, e := twine.Turn(long); return e },
+		"Back":    func() twine.Errno { _, e := twine.Back(long); return e },
 		"Front":   func() twine.Errno { _, e := twine.Front(long); return e },
 		"Behind":  func() twine.Errno { _, e := twine.Behind(long); return e },
 		"Ungamma": func() twine.Errno { _, e := twine.Ungamma(long); return e },
@@ -120,6 +122,19 @@ func TestAnswersAreNewMemory(t *testing.T) {
 					if share(told, other) {
 						t.Errorf("P1: %s(%q): two texts share memory", a.call, text)
 					}
+				}
+			}
+		}
+	}
+}
+
+func TestAnswersOfTwoCallsShareNothing(t *testing.T) {
+	for _, text := range append(someTexts(), textsOver("\x00a1", 2)...) {
+		again := everyCall(text, 1)
+		for i, a := range everyCall(text, 1) {
+			for j, told := range append(a.texts, a.text) {
+				if share(told, append(again[i].texts, again[i].text)[j]) {
+					t.Errorf("P1: two calls of %s(%q) answer one memory", a.call, text)
 				}
 			}
 		}

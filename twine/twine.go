@@ -31,10 +31,20 @@ func Words(data string) ([]string, Errno) {
 }
 
 // Turn turns bytes (P4).
-func Turn(data string) (string, Errno) { return "", OK }
+func Turn(data string) (string, Errno) {
+	if len(data) > maxData {
+		return "", ErrLong
+	}
+	return turned(data), OK
+}
 
 // Back turns them back (P4).
-func Back(data string) (string, Errno) { return "", OK }
+func Back(data string) (string, Errno) {
+	if len(data) > maxData {
+		return "", ErrLong
+	}
+	return turnedBack(data), OK
+}
 
 // Front tells places in a list instead of bytes (P5).
 func Front(data string) (string, Errno) {
