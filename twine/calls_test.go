@@ -79,12 +79,16 @@ func TestEveryCallEndsAndErrorsComeAlone(t *testing.T) {
 func TestLengthIsAskedAheadOfOtherWork(t *testing.T) {
 	long := strings.Repeat("x", 1<<24)
 	for name, call := range map[string]func() twine.Errno{
-		"Words":   func() twine.Errno { _, e := twine.Words(long); return e },
-		"Turn":    func() twine.Errno { _, e := twine.Turn(long); return e },
-		"Back":    func() twine.Errno { _, e := twine.Back(long); return e },
-		"Front":   func() twine.Errno { _, e := twine.Front(long); return e },
-		"Behind":  func() twine.Errno { _, e := twine.Behind(long); return e },
-		"Ungamma": func() twine.Errno { _, e := twine.Ungamma(long); return e },
+		"Words":      func() twine.Errno { _, e := twine.Words(long); return e },
+		"Turn":       func() twine.Errno { _, e := twine.Turn(long); return e },
+		"Back":       func() twine.Errno { _, e := twine.Back(long); return e },
+		"Front":      func() twine.Errno { _, e := twine.Front(long); return e },
+		"Behind":     func() twine.Errno { _, e := twine.Behind(long); return e },
+		"Ungamma":    func() twine.Errno { _, e := twine.Ungamma(long); return e },
+		"Pack":       func() twine.Errno { _, e := twine.Pack(long); return e },
+		"Unpack":     func() twine.Errno { _, e := twine.Unpack(long, 1); return e },
+		"Compress":   func() twine.Errno { _, e := twine.Compress(long, 1); return e },
+		"Decompress": func() twine.Errno { _, e := twine.Decompress(long); return e },
 	} {
 		if e := call(); e != twine.ErrLong {
 			t.Errorf("P1: %s of %d bytes: %d", name, len(long), e)
@@ -111,16 +115,51 @@ func TestGammaLeavesItsListAlone(t *testing.T) {
 	}
 }
 
-func TestAnswersAreNewMemory(t *testing.T) {
+// asked is what everyCall takes.
+type asked struct {
+	text   string
+	number int
+}
+
+// goodAsked answers texts with numbers with which each call, for some of them,
+// has something to tell.
+func goodAsked() []asked {
+	var all []asked
 	for _, text := range append(someTexts(), textsOver("\x00a1", 3)...) {
-		for _, a := range everyCall(text, 1) {
+		all = append(all, asked{text, 1})
+		block := text[:min(200, len(text))]
+		packed, _ := twine.Pack(block)
+		all = append(all, asked{packed, len(block)})
+		compressed, _ := twine.Compress(text, 200)
+		all = append(all, asked{compressed, 1})
+	}
+	return all
+}
+
+func TestGoodAskedReachesEveryCall(t *testing.T) {
+	told := map[string]int{}
+	for _, ask := range goodAsked() {
+		for _, a := range everyCall(ask.text, ask.number) {
+			if !a.empty() {
+				told[a.call]++
+			}
+		}
+	}
+	if len(told) != 11 {
+		t.Errorf("only these calls had something to tell: %v", told)
+	}
+}
+
+func TestAnswersAreNewMemory(t *testing.T) {
+	for _, ask := range goodAsked() {
+		for _, a := range everyCall(ask.text, ask.number) {
 			for i, told := range append(a.texts, a.text) {
-				if share(told, text) {
-					t.Errorf("P1: %s(%q): %q is a piece of what was handed in", a.call, text, told)
+				if share(told, ask.text) {
+					t.Errorf("P1: %s(%q): %q is a piece of what was handed in", a.call, ask.text, told)
 				}
 				for _, other := range a.texts[:min(i, len(a.texts))] {
 					if share(told, other) {
-						t.Errorf("P1: %s(%q): two texts share memory", a.call, text)
+						t.Errorf("P1: %s(%q): two texts share memory", a.call, ask.text)
 					}
 				}
 			}
@@ -129,12 +168,12 @@ func TestAnswersAreNewMemory(t *testing.T) {
 }
 
 func TestAnswersOfTwoCallsShareNothing(t *testing.T) {
-	for _, text := range append(someTexts(), textsOver("\x00a1", 2)...) {
-		again := everyCall(text, 1)
-		for i, a := range everyCall(text, 1) {
+	for _, ask := range goodAsked() {
+		again := everyCall(ask.text, ask.number)
+		for i, a := range everyCall(ask.text, ask.number) {
 			for j, told := range append(a.texts, a.text) {
 				if share(told, append(again[i].texts, again[i].text)[j]) {
-					t.Errorf("P1: two calls of %s(%q) answer one memory", a.call, text)
+					t.Errorf("P1: two calls of %s(%q) answer one memory", a.call, ask.text)
 				}
 			}
 		}
@@ -155,22 +194,25 @@ func TestAnsweredListsAreTheCallers(t *testing.T) {
 }
 
 func TestNothingIsKept(t *testing.T) {
-	texts := wildTexts()
-	first := make([][]answer, len(texts))
-	for i, text := range texts {
-		first[i] = everyCall(text, i)
+	asks := goodAsked()
+	for i, text := range wildTexts() {
+		asks = append(asks, asked{text, i})
 	}
-	for i, text := range slices.Backward(texts) {
-		if again := everyCall(strings.Clone(text), i); !reflect.DeepEqual(again, first[i]) {
-			t.Errorf("P2: of %q first %v, then %v", text, first[i], again)
+	first := make([][]answer, len(asks))
+	for i, ask := range asks {
+		first[i] = everyCall(ask.text, ask.number)
+	}
+	for i, ask := range slices.Backward(asks) {
+		if again := everyCall(strings.Clone(ask.text), ask.number); !reflect.DeepEqual(again, first[i]) {
+			t.Errorf("P2: of %q first %v, then %v", ask.text, first[i], again)
 		}
 	}
 	var all sync.WaitGroup
 	for range 4 {
 		all.Go(func() {
-			for i, text := range texts {
-				if again := everyCall(text, i); !reflect.DeepEqual(again, first[i]) {
-					t.Errorf("P2: of %q first %v, beside other calls %v", text, first[i], again)
+			for i, ask := range asks {
+				if again := everyCall(ask.text, ask.number); !reflect.DeepEqual(again, first[i]) {
+					t.Errorf("P2: of %q first %v, beside other calls %v", ask.text, first[i], again)
 				}
 			}
 		})

@@ -1,6 +1,8 @@
 // Package twine packs bytes by turning them: see DOC.md.
 package twine
 
+import "strings"
+
 // Errno is what a call answers: OK or the reason for a refusal.
 type Errno int
 
@@ -18,6 +20,8 @@ const (
 
 const (
 	maxData   = 300
+	maxBlock  = 200
+	maxText   = 4000
 	maxNumber = 1 << 30
 	maxList   = 100
 )
@@ -95,13 +99,55 @@ func Ungamma(bits string) ([]int, Errno) {
 }
 
 // Pack packs a block (P7).
-func Pack(data string) (string, Errno) { return "", OK }
+func Pack(data string) (string, Errno) {
+	if len(data) > maxBlock {
+		return "", ErrLong
+	}
+	return packedBlock(data), OK
+}
 
 // Unpack unpacks a block of so many bytes (P7).
-func Unpack(packed string, size int) (string, Errno) { return "", OK }
+func Unpack(packed string, size int) (data string, e Errno) {
+	if len(packed) > maxText {
+		return "", ErrLong
+	}
+	if size < 0 || size > maxBlock {
+		return "", ErrArg
+	}
+	defer func() {
+		if recover() != nil {
+			data, e = "", ErrData
+		}
+	}()
+	return unpackedBlock(packed, size), OK
+}
 
 // Compress packs bytes, block by block (P8, P9).
-func Compress(data string, block int) (string, Errno) { return "", OK }
+func Compress(data string, block int) (string, Errno) {
+	if len(data) > maxData {
+		return "", ErrLong
+	}
+	if block < 1 || block > maxBlock {
+		return "", ErrArg
+	}
+	return framed(data, block), OK
+}
 
 // Decompress unpacks them (P8, P9).
-func Decompress(text string) (string, Errno) { return "", OK }
+func Decompress(text string) (data string, e Errno) {
+	if len(text) > maxText {
+		return "", ErrLong
+	}
+	blocks, ok := strings.CutPrefix(text, head)
+	if !ok {
+		return "", ErrHead
+	}
+	defer func() {
+		// Blocks that are given up are caught by Unpack: what comes here is a
+		// text that breaks off.
+		if recover() != nil {
+			data, e = "", ErrEnd
+		}
+	}()
+	return unframed(blocks)
+}
